@@ -226,11 +226,7 @@ func PartText(p []int) (string, bool) {
 	if len(p) == 0 {
 		return "0", true
 	}
-	var words []string
-	for _, part := range p {
-		words = append(words, strconv.Itoa(part))
-	}
-	return strings.Join(words, "+"), true
+	return joinNumbers(p, "+"), true
 }
 
 // ParsePart returns the partition with a PartText. It fails if there is none.
@@ -242,15 +238,11 @@ func ParsePart(s string) ([]int, bool) {
 	if len(s) >= 2*MaxCells {
 		return nil, false
 	}
-	var p []int
-	for _, word := range strings.Split(s, "+") {
-		part, err := strconv.Atoi(word)
-		if err != nil {
-			return nil, false
-		}
-		p = append(p, part)
+	p, ok := splitNumbers(s, "+")
+	if !ok {
+		return nil, false
 	}
-	// Atoi also reads signs and superfluous zeros, which no PartText has.
+	// Signs and superfluous zeros can be read, too, but no PartText has them.
 	if text, ok := PartText(p); !ok || text != s {
 		return nil, false
 	}
@@ -305,6 +297,28 @@ func sumOver[E any](list []E, amount func(E) int) int {
 
 func cellCount(p []int) int {
 	return sumOver(p, func(part int) int { return part })
+}
+
+// joinNumbers returns numbers in decimal with a mark between them.
+func joinNumbers(numbers []int, mark string) string {
+	var words []string
+	for _, number := range numbers {
+		words = append(words, strconv.Itoa(number))
+	}
+	return strings.Join(words, mark)
+}
+
+// splitNumbers returns the numbers of a text with a mark between them, also if they have signs or superfluous zeros.
+func splitNumbers(s string, mark string) ([]int, bool) {
+	var numbers []int
+	for _, word := range strings.Split(s, mark) {
+		number, err := strconv.Atoi(word)
+		if err != nil {
+			return nil, false
+		}
+		numbers = append(numbers, number)
+	}
+	return numbers, true
 }
 
 func columnsOf(p []int) []int {

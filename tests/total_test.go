@@ -75,12 +75,35 @@ const guard = -777777
 // guarded returns a copy of a list with numbers in its spare capacity that must stay.
 func guarded(list []int) []int {
 	room := append(slices.Clone(list), guard, guard, guard, guard)
-	return room[:len(list)]
+	return room[:len(list):len(room)]
+}
+
+// guardedRows returns guarded copies of lists, with another one in their own spare capacity that must stay.
+func guardedRows(lists [][]int) [][]int {
+	var room [][]int
+	for _, list := range append(slices.Clone(lists), []int{guard}) {
+		room = append(room, guarded(list))
+	}
+	return room[:len(lists):len(room)]
+}
+
+// clippedRows returns copies of lists without spare capacity.
+func clippedRows(lists [][]int) [][]int {
+	var rows [][]int
+	for _, list := range lists {
+		rows = append(rows, slices.Clip(slices.Clone(list)))
+	}
+	return slices.Clip(rows)
 }
 
 // whole returns a list with all of its capacity.
-func whole(list []int) []int {
+func whole[E any](list []E) []E {
 	return list[:cap(list)]
+}
+
+// sameMemory reports whether two guarded lists are the same part of the same memory.
+func sameMemory(a, b []int) bool {
+	return len(a) == len(b) && cap(a) == cap(b) && &whole(a)[0] == &whole(b)[0]
 }
 
 // scribble writes to all memory that a result can reach.
@@ -117,7 +140,7 @@ func brief(lists [][]int) string {
 	return text[:min(len(text), 100)]
 }
 
-// tryCall runs a call twice and reports what the promise forbids.
+// tryCall runs a call several times and reports what the promise forbids.
 func tryCall(t *testing.T, do call, lists ...[]int) {
 	t.Helper()
 	defer func() {
@@ -125,10 +148,11 @@ func tryCall(t *testing.T, do call, lists ...[]int) {
 			t.Errorf("%s of %s: panics: %v", do.name, brief(lists), cause)
 		}
 	}()
-	var given, before [][]int
-	for _, list := range lists {
-		given = append(given, guarded(list))
-		before = append(before, slices.Clone(whole(given[len(given)-1])))
+	given := guardedRows(lists)
+	rows := slices.Clone(whole(given))
+	var before [][]int
+	for _, row := range rows {
+		before = append(before, slices.Clone(whole(row)))
 	}
 	first := do.run(given)
 	printed := fmt.Sprint(first...)
@@ -141,13 +165,16 @@ func tryCall(t *testing.T, do call, lists ...[]int) {
 		}
 		scribble(result, 555)
 	}
-	for k, list := range given {
-		if !slices.Equal(whole(list), before[k]) {
+	for k, row := range whole(given) {
+		if !sameMemory(row, rows[k]) || !slices.Equal(whole(row), before[k]) {
 			t.Errorf("%s of %s: an argument is changed or shared", do.name, brief(lists))
 		}
 	}
 	if again := fmt.Sprint(do.run(given)...); again != printed {
 		t.Errorf("%s of %s: %s, and later %s", do.name, brief(lists), printed, again)
+	}
+	if clipped := fmt.Sprint(do.run(clippedRows(lists))...); clipped != printed {
+		t.Errorf("%s of %s: %s, and %s without spare capacity", do.name, brief(lists), printed, clipped)
 	}
 }
 
