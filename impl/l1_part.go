@@ -176,7 +176,7 @@ func IsInside(p []int, q []int) (bool, bool) {
 
 // CountPartitions returns how many partitions of n cells there are.
 func CountPartitions(n int) (int, bool) {
-	if n < 0 || n > MaxCells {
+	if !isCellNumber(n) {
 		return 0, false
 	}
 	return countBounded().all(n), true
@@ -208,7 +208,7 @@ func RankPartition(p []int) (int, bool) {
 
 // PartitionWith returns the partition of n cells with a rank. It fails if there is none.
 func PartitionWith(n int, rank int) ([]int, bool) {
-	if n < 0 || n > MaxCells {
+	if !isCellNumber(n) {
 		return nil, false
 	}
 	counts := countBounded()
@@ -297,6 +297,15 @@ func sumOver[E any](list []E, amount func(E) int) int {
 
 func cellCount(p []int) int {
 	return sumOver(p, func(part int) int { return part })
+}
+
+func isCellNumber(n int) bool {
+	return n >= 0 && n <= MaxCells
+}
+
+// greatestFirst compares partitions by their order, in which the greatest one is the first.
+func greatestFirst(p []int, q []int) int {
+	return slices.Compare(q, p)
 }
 
 // joinNumbers returns numbers in decimal with a mark between them.
