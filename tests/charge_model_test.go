@@ -100,12 +100,12 @@ func coresByList(size, n int) [][]int {
 		return lists[n]
 	}
 	for cells := range impl.MaxCells + 1 {
-		for s := 2; s <= impl.MaxRunners; s++ {
+		for s := 2; s <= impl.MaxBoth; s++ {
 			coreLists[s] = append(coreLists[s], nil)
 		}
 		for _, p := range partitions(cells) {
 			hooks := hookList(p)
-			for s := 2; s <= impl.MaxRunners; s++ {
+			for s := 2; s <= impl.MaxBoth; s++ {
 				if !slices.ContainsFunc(hooks, func(hook int) bool { return hook%s == 0 }) {
 					coreLists[s][cells] = append(coreLists[s][cells], p)
 				}
