@@ -336,14 +336,19 @@ func columnsOf(p []int) []int {
 	}
 	columns := make([]int, p[0])
 	for c := range columns {
-		columns[c] = sumOver(p, func(part int) int {
-			if part > c {
-				return 1
-			}
-			return 0
-		})
+		columns[c] = partsAbove(p, c)
 	}
 	return columns
+}
+
+// partsAbove returns how many parts are greater than a number.
+func partsAbove(p []int, number int) int {
+	return sumOver(p, func(part int) int {
+		if part > number {
+			return 1
+		}
+		return 0
+	})
 }
 
 // isCell reports whether p is a partition with the cell r, c.
